@@ -54,6 +54,28 @@ func TestOverflowP1(t *testing.T) {
 	}
 }
 
+// Valid is what the packages above use for ranges of their own.
+func TestValidP1(t *testing.T) {
+	for _, words := range []int{0, 1, 3, 256} {
+		for _, at := range edges(words) {
+			for _, n := range edges(words) {
+				if Valid(words, at, n) != valid(words, at, n) {
+					t.Errorf("Valid(%d, %d, %d) is %t", words, at, n, Valid(words, at, n))
+				}
+			}
+		}
+	}
+	for _, words := range []int{-1, math.MinInt} {
+		for _, at := range edges(0) {
+			for _, n := range edges(0) {
+				if Valid(words, at, n) {
+					t.Errorf("Valid(%d, %d, %d)", words, at, n)
+				}
+			}
+		}
+	}
+}
+
 // changers are the functions that return a changed arena, each with arguments
 // that are valid for four words.
 func changers() []func([]uint64) ([]uint64, api.Errno) {

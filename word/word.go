@@ -88,6 +88,14 @@ func Words(s string) ([]uint64, api.Errno) {
 	return a, api.OK
 }
 
+// Valid reports whether the range of n words that starts at word at is valid
+// in an arena of the given number of words. It is exported because the
+// packages above use ranges, too.
+func Valid(words, at, n int) bool {
+	// n is compared with the words that remain, because at+n may overflow.
+	return at >= 0 && at <= words && n >= 0 && n <= words-at
+}
+
 // oneWord reads its bytes from the last to the first, because the last one is
 // the most significant.
 func oneWord(s string) uint64 {
@@ -115,12 +123,11 @@ func checkWord(a []uint64, at int) api.Errno {
 	return api.OK
 }
 
-// checkRange compares n with the words that remain, because at+n may overflow.
 func checkRange(a []uint64, at, n int) api.Errno {
 	if e := checkSize(a); e != api.OK {
 		return e
 	}
-	if at < 0 || at > len(a) || n < 0 || n > len(a)-at {
+	if !Valid(len(a), at, n) {
 		return api.ErrRange
 	}
 	return api.OK
