@@ -72,6 +72,28 @@ func starts(n int) []int {
 	return all
 }
 
+// New is not in the document, but what it returns are marks as P20 says.
+func TestNewP20(t *testing.T) {
+	for n := range api.MaxWords + 1 {
+		m, e := New(n)
+		if want := pack(make([]bool, n)); !slices.Equal(m, want) || e != api.OK {
+			t.Errorf("New(%d): %v, error %d", n, m, e)
+		}
+		m = m[:cap(m)]
+		for i := range m {
+			m[i] = 77
+		}
+		if again, _ := New(n); Check(again, n) != api.OK {
+			t.Errorf("New(%d): results share memory", n)
+		}
+	}
+	for _, n := range []int{math.MinInt, -64, -1, api.MaxWords + 1, 320, math.MaxInt} {
+		if m, e := New(n); len(m) != 0 || e != api.ErrRange {
+			t.Errorf("New(%d): %v, error %d", n, m, e)
+		}
+	}
+}
+
 func TestCheckP20(t *testing.T) {
 	for n := range api.MaxWords + 1 {
 		for _, on := range patterns(n) {
