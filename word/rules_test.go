@@ -177,3 +177,33 @@ func TestStringsAreBytesP4(t *testing.T) {
 		t.Errorf("%q, error %d", back, e)
 	}
 }
+
+// Increasing is what the packages above use for lists of their own.
+func TestIncreasingP4(t *testing.T) {
+	for _, c := range []struct {
+		l    []int
+		want bool
+	}{
+		{nil, true},
+		{[]int{}, true},
+		{[]int{5}, true},
+		{[]int{-1}, true},
+		{[]int{0, 1}, true},
+		{[]int{0, 0}, false},
+		{[]int{1, 0}, false},
+		{[]int{0, 2, 255}, true},
+		{[]int{0, 2, 2}, false},
+		{[]int{2, 2, 3}, false},
+		{[]int{0, 2, 1}, false},
+		{[]int{1, 3, 2, 4}, false},
+		{[]int{math.MinInt, 0, math.MaxInt}, true},
+		{[]int{math.MinInt, math.MaxInt}, true},
+		{[]int{math.MaxInt, math.MinInt}, false},
+		{[]int{math.MaxInt, math.MaxInt}, false},
+		{[]int{0, 1, 0}[:2], true},
+	} {
+		if got := Increasing(c.l); got != c.want {
+			t.Errorf("Increasing(%v) is %t", c.l, got)
+		}
+	}
+}

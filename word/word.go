@@ -96,6 +96,17 @@ func Valid(words, at, n int) bool {
 	return at >= 0 && at <= words && n >= 0 && n <= words-at
 }
 
+// Increasing reports whether a list of words is strictly increasing. It is
+// exported because the packages above have such lists.
+func Increasing(l []int) bool {
+	for i := 1; i < len(l); i++ {
+		if l[i] <= l[i-1] {
+			return false
+		}
+	}
+	return true
+}
+
 // oneWord reads its bytes from the last to the first, because the last one is
 // the most significant.
 func oneWord(s string) uint64 {
